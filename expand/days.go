@@ -2,6 +2,7 @@ package expand
 
 import (
 	"iter"
+	"slices"
 
 	"lammastide/api"
 	"lammastide/day"
@@ -13,8 +14,10 @@ const (
 	yearMonths = 12
 )
 
-// days of a start and a rule, rising; none where one of the two is not well.
-func days(start int, r api.Rule) iter.Seq[int] {
+// Days of a start and a rule, rising, as long as they are asked for; none where one of the two is not well.
+func Days(start int, r api.Rule) iter.Seq[int] {
+	// They may be asked for when the caller's list is another one.
+	r.Days = slices.Clone(r.Days)
 	return func(yield func(int) bool) {
 		if check(start, r) != nil {
 			return

@@ -419,3 +419,27 @@ func TestEmptyDaysAreNone(t *testing.T) {
 		}
 	}
 }
+
+func TestDaysAsLongAsAskedFor(t *testing.T) {
+	memory := []int{0, 4}
+	seq := expand.Days(2, api.Rule{Freq: "weekly", Every: 1, Days: memory, Until: -1})
+	memory[1] = 99
+	for range 2 {
+		var got []int
+		for d := range seq {
+			got = append(got, d)
+			if len(got) == 4 {
+				break
+			}
+		}
+		if !slices.Equal(got, []int{2, 6, 9, 13}) {
+			t.Error(got)
+		}
+	}
+	for d := range expand.Days(-1, readRule(t, "daily 1")) {
+		t.Error(d)
+	}
+	for d := range expand.Days(0, api.Rule{}) {
+		t.Error(d)
+	}
+}
