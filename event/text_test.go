@@ -205,6 +205,18 @@ func scribble(e *api.Event) {
 	_ = append(e.Moves, api.Move{From: 77, To: 77})
 }
 
+func TestCopySharesNothing(t *testing.T) {
+	e := fullEvent()
+	other := event.Copy(e)
+	if !isSame(other, e) || !isSame(event.Copy(api.Event{}), api.Event{}) {
+		t.Error(other)
+	}
+	scribble(&other)
+	if !isSame(e, fullEvent()) {
+		t.Error(e)
+	}
+}
+
 func TestReadSharesNothing(t *testing.T) {
 	first, _ := event.Read(fullText)
 	scribble(&first)
