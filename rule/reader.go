@@ -2,11 +2,11 @@ package rule
 
 import (
 	"errors"
-	"strconv"
 	"strings"
 
 	"lammastide/api"
 	"lammastide/day"
+	"lammastide/number"
 )
 
 const maxDigits = 9
@@ -73,7 +73,7 @@ func (p *reader) takePart(word string) bool {
 }
 
 func (p *reader) takeNumber(word string, into *int, next place) bool {
-	n, is := readNumber(word)
+	n, is := number.Read(word, maxDigits)
 	*into = n
 	p.at = next
 	return is
@@ -112,15 +112,6 @@ func (p *reader) mayEnd() bool {
 		return false
 	}
 	return true
-}
-
-// readNumber: just what strconv.Itoa writes, so that no other text is read as the same rule.
-func readNumber(s string) (int, bool) {
-	if len(s) > maxDigits {
-		return 0, false
-	}
-	n, err := strconv.Atoi(s)
-	return n, err == nil && n >= 0 && strconv.Itoa(n) == s
 }
 
 func readName(s string) (int, bool) {
