@@ -6,17 +6,6 @@ import (
 	"lammastide/api"
 )
 
-func isID(s string) bool {
-	for i := range len(s) {
-		isLetter := s[i] >= 'a' && s[i] <= 'z'
-		isDigit := s[i] >= '0' && s[i] <= '9'
-		if !isLetter && !isDigit {
-			return false
-		}
-	}
-	return len(s) >= 1 && len(s) <= api.MaxName
-}
-
 func isTitle(s string) bool {
 	for i := range len(s) {
 		if s[i] < ' ' || s[i] > '~' || s[i] == partGap[0] {
