@@ -410,3 +410,40 @@ func TestCopyIsFullAsWell(t *testing.T) {
 	refusesSet(t, r.Copy(), "x", -1, 1, 1, api.ErrFull)
 	set(t, r.Copy(), numbered(0), 1, 1, 1)
 }
+
+func TestAllNames(t *testing.T) {
+	r := refs.New()
+	if l := r.AllNames(); len(l) != 0 {
+		t.Error(l)
+	}
+	set(t, r, "b", -1, 1, 1)
+	set(t, r, "c", -1, 1, 1)
+	set(t, r, "a", -1, 1, 1)
+	drop(t, r, "b", 1, 2)
+	drop(t, r, "a", 1, 2)
+	set(t, r, "a", -1, 2, 2)
+	for range 2 {
+		l := r.AllNames()
+		if !slices.Equal(l, []string{"a", "b", "c"}) {
+			t.Error(l)
+		}
+		// It shows in no later answer.
+		clear(l)
+	}
+	hasNames(t, r, "a", "c")
+}
+
+// TestRenumbered: what is dropped stays so, and the first one stays as it was.
+func TestRenumbered(t *testing.T) {
+	const text = "a 1:3 1:- 2:0\nb 7:5\n"
+	r := read(t, text)
+	c := r.Renumbered(func(n int) int { return 10 - n })
+	if c.Text() != "a 1:7 1:- 2:10\nb 7:5\n" {
+		t.Error(c.Text())
+	}
+	set(t, c, "a", 10, 6, 3)
+	drop(t, c, "b", 5, 7)
+	if r.Text() != text {
+		t.Error(r.Text())
+	}
+}

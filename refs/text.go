@@ -20,7 +20,7 @@ const (
 // Text of refs.
 func (r *Refs) Text() string {
 	var text strings.Builder
-	for _, name := range r.allNames() {
+	for _, name := range r.AllNames() {
 		text.WriteString(name)
 		for _, e := range r.logs[name] {
 			text.WriteString(wordGap)
