@@ -4,6 +4,8 @@ import (
 	"cmp"
 	"slices"
 	"strconv"
+
+	"lammastide/sized"
 )
 
 const maxBases = 4 // of one text, to be tried
@@ -26,9 +28,9 @@ func (t *textsAhead) add(s string) {
 
 // entry of a text in a pack: the shortest of those that are tried.
 func (t *textsAhead) entry(s string) string {
-	short := wholeMark + sizedText(s, lineEnd)
+	short := wholeMark + sized.Text(s, lineEnd)
 	for _, n := range t.bases(s) {
-		e := deltaMark + strconv.Itoa(n) + baseEnd + sizedText(Delta(t.texts[n], s), lineEnd)
+		e := deltaMark + strconv.Itoa(n) + baseEnd + sized.Text(Delta(t.texts[n], s), lineEnd)
 		if len(e) < len(short) {
 			short = e
 		}

@@ -6,6 +6,7 @@ import (
 
 	"lammastide/api"
 	"lammastide/number"
+	"lammastide/sized"
 )
 
 const (
@@ -64,7 +65,7 @@ func (o op) text() string {
 	return copyMark + strconv.Itoa(o.at) + placeEnd + strconv.Itoa(o.size) + opEnd
 }
 
-func ownText(s string) string { return ownMark + sizedText(s, opEnd) }
+func ownText(s string) string { return ownMark + sized.Text(s, opEnd) }
 
 // of a text: the bytes that the op makes; false: it has them not.
 func (o op) of(a string) (string, bool) {
@@ -83,7 +84,7 @@ func cutOp(d string) (op, string, bool) {
 		return cutCopy(rest)
 	}
 	if rest, is := strings.CutPrefix(d, ownMark); is {
-		own, behind, is := cutSized(rest, opEnd)
+		own, behind, is := sized.Cut(rest, opEnd)
 		return op{own: own}, behind, is && own != ""
 	}
 	return op{}, "", false
