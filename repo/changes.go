@@ -5,14 +5,11 @@ import (
 
 	"lammastide/api"
 	"lammastide/event"
-	"lammastide/number"
 	"lammastide/sweep"
+	"lammastide/wording"
 )
 
-const (
-	maxDigits = 9
-	mergeNote = "merge "
-)
+const mergeNote = "merge "
 
 func (s *state) put(text string) (string, error) {
 	e, err := event.Read(text)
@@ -22,10 +19,10 @@ func (s *state) put(text string) (string, error) {
 	return e.ID, s.work.Put(e)
 }
 
-func (s *state) drop(id string) (string, error) { return allRight, s.work.Drop(id) }
+func (s *state) drop(id string) (string, error) { return wording.AllRight, s.work.Drop(id) }
 
 func (s *state) tick(word string) (string, error) {
-	n, is := number.Read(word, maxDigits)
+	n, is := wording.Number(word)
 	if !is {
 		return "", api.ErrText
 	}
@@ -56,7 +53,7 @@ func (s *state) branch(name string) (string, error) {
 	if _, is := s.names.Get(name); is {
 		return "", api.ErrExist
 	}
-	return allRight, s.names.Set(name, notThere, n, s.time)
+	return wording.AllRight, s.names.Set(name, notThere, n, s.time)
 }
 
 func (s *state) switchTo(name string) (string, error) {
@@ -65,7 +62,7 @@ func (s *state) switchTo(name string) (string, error) {
 		return "", err
 	}
 	s.head, s.work = name, b
-	return allRight, nil
+	return wording.AllRight, nil
 }
 
 func (s *state) merge(name string) (string, error) {
@@ -78,7 +75,7 @@ func (s *state) merge(name string) (string, error) {
 		return "", err
 	}
 	if s.graph.Is(theirs, ours) {
-		return nothing, nil
+		return wording.Nothing, nil
 	}
 	both := theirs
 	if !s.graph.Is(ours, theirs) {
@@ -104,7 +101,7 @@ func (s *state) forget(name string) (string, error) {
 	if name == s.head {
 		return "", api.ErrShape
 	}
-	return allRight, s.names.Drop(name, s.placeOf(name), s.time)
+	return wording.AllRight, s.names.Drop(name, s.placeOf(name), s.time)
 }
 
 func (s *state) sweep() (string, error) {

@@ -4,12 +4,7 @@ import (
 	"strings"
 
 	"lammastide/api"
-)
-
-const (
-	wordGap  = " "
-	nothing  = "nothing"
-	allRight = "ok"
+	"lammastide/wording"
 )
 
 // shape of a line: its command, and how many words stand behind that.
@@ -64,7 +59,7 @@ func (s *state) run(verb string, words []string) (string, error) {
 
 // split a line into its command and the words behind it.
 func split(line string) (verb string, words []string) {
-	verb, rest, isParted := strings.Cut(line, wordGap)
+	verb, rest, isParted := strings.Cut(line, wording.Gap)
 	switch {
 	case !isParted:
 		return verb, nil
@@ -72,7 +67,7 @@ func split(line string) (verb string, words []string) {
 		// An event and a note may have blanks of their own.
 		return verb, []string{rest}
 	}
-	return verb, strings.Split(rest, wordGap)
+	return verb, strings.Split(rest, wording.Gap)
 }
 
 // isKeptOf a line that was done. The answer alone does not tell it: an event's ID may be `nothing`.
@@ -81,15 +76,7 @@ func isKeptOf(verb, answer string) bool {
 	case "on", "was", "log", "diff", "head":
 		return false
 	case "merge":
-		return answer != nothing
+		return answer != wording.Nothing
 	}
 	return true
-}
-
-// list as an answer.
-func list(items []string) string {
-	if len(items) == 0 {
-		return nothing
-	}
-	return strings.Join(items, wordGap)
 }

@@ -6,7 +6,7 @@ import (
 	"lammastide/api"
 	"lammastide/day"
 	"lammastide/diff"
-	"lammastide/number"
+	"lammastide/wording"
 )
 
 func (s *state) on(date string) (string, error) {
@@ -14,12 +14,12 @@ func (s *state) on(date string) (string, error) {
 	if err != nil {
 		return "", err
 	}
-	return list(s.work.On(d)), nil
+	return wording.List(s.work.On(d)), nil
 }
 
 func (s *state) was(name, when, date string) (string, error) {
 	// The line is read whole ahead of what it asks for.
-	at, is := number.Read(when, maxDigits)
+	at, is := wording.Number(when)
 	if !is {
 		return "", api.ErrText
 	}
@@ -35,13 +35,13 @@ func (s *state) was(name, when, date string) (string, error) {
 	if err != nil {
 		return "", err
 	}
-	return list(b.On(d)), nil
+	return wording.List(b.On(d)), nil
 }
 
 func (s *state) log() (string, error) {
 	n, is := s.names.Get(s.head)
 	if !is {
-		return nothing, nil
+		return wording.Nothing, nil
 	}
 	commits, err := s.graph.Ancestors(n)
 	if err != nil {
@@ -51,7 +51,7 @@ func (s *state) log() (string, error) {
 	for _, n := range commits {
 		numbers = append(numbers, strconv.Itoa(n))
 	}
-	return list(numbers), nil
+	return wording.List(numbers), nil
 }
 
 func (s *state) diff(name string) (string, error) {
@@ -63,5 +63,5 @@ func (s *state) diff(name string) (string, error) {
 	for _, c := range diff.Diff(b, s.work) {
 		changes = append(changes, c.ID+"."+c.Field)
 	}
-	return list(changes), nil
+	return wording.List(changes), nil
 }
